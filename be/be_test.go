@@ -8,24 +8,11 @@ import (
 	"testing"
 
 	"moneyer/api"
+	"moneyer/sample"
 )
-
-// roomy gives bytes with spare room behind them, all of it 0xee, and the whole.
-func roomy(b ...byte) ([]byte, []byte) {
-	whole := append(bytes.Clone(b), bytes.Repeat([]byte{0xee}, 64)...)
-	return whole[:len(b)], whole
-}
 
 // spare gives b with its spare room.
 func spare(b []byte) []byte { return b[:cap(b)] }
-
-// scribble writes over all of b, its spare room too.
-func scribble(b []byte) {
-	b = spare(b)
-	for i := range b {
-		b[i] = 0x55
-	}
-}
 
 // P1.1
 
@@ -88,7 +75,7 @@ func TestNum(t *testing.T) {
 }
 
 func TestNumThatIsNotThere(t *testing.T) {
-	b, _ := roomy(9, 9, 9, 9, 9, 9, 9, 9, 9)
+	b, _ := sample.Roomy(9, 9, 9, 9, 9, 9, 9, 9, 9)
 	for _, x := range []struct{ at, width int }{
 		{0, 0}, {0, 9}, {0, -1}, {0, -8}, {0, math.MaxInt}, {0, math.MinInt}, {1, 0}, {9, 0},
 		{-1, 1}, {-1, 8}, {-8, 8}, {math.MinInt, 1}, {math.MinInt, 8},
@@ -146,7 +133,7 @@ func TestTextOfTheLimit(t *testing.T) {
 // What is handed in is not changed, its spare room included.
 func TestPutAndTextChangeNothing(t *testing.T) {
 	for _, f := range writers() {
-		b, whole := roomy(1, 2, 3)
+		b, whole := sample.Roomy(1, 2, 3)
 		before := bytes.Clone(whole)
 		f.of(b)
 		if !bytes.Equal(whole, before) {
@@ -158,16 +145,16 @@ func TestPutAndTextChangeNothing(t *testing.T) {
 // An answer is new memory: neither of the two reaches the other.
 func TestPutAndTextAnswerNewMemory(t *testing.T) {
 	for _, f := range writers() {
-		b, whole := roomy(1, 2, 3)
+		b, whole := sample.Roomy(1, 2, 3)
 		before := bytes.Clone(whole)
 		got := f.of(b)
 		want := bytes.Clone(got)
-		scribble(got)
+		sample.Scribble(got)
 		if !bytes.Equal(whole, before) {
 			t.Errorf("%s: the answer reaches what was given: %v", f.name, whole)
 		}
 		got = f.of(b)
-		scribble(whole)
+		sample.Scribble(whole)
 		if !bytes.Equal(got, want) {
 			t.Errorf("%s: what was given reaches the answer: %v", f.name, got)
 		}
@@ -177,10 +164,10 @@ func TestPutAndTextAnswerNewMemory(t *testing.T) {
 // Two answers share nothing either.
 func TestAnswersOfOneListShareNothing(t *testing.T) {
 	for _, f := range writers() {
-		b, _ := roomy(1, 2, 3)
+		b, _ := sample.Roomy(1, 2, 3)
 		one, two := f.of(b), f.of(b)
 		want := bytes.Clone(two)
-		scribble(one)
+		sample.Scribble(one)
 		if !bytes.Equal(two, want) {
 			t.Errorf("%s: one answer reaches another: %v", f.name, two)
 		}
@@ -205,7 +192,7 @@ func writers() []writer {
 }
 
 func TestNumChangesNothing(t *testing.T) {
-	b, whole := roomy(1, 2, 3)
+	b, whole := sample.Roomy(1, 2, 3)
 	before := bytes.Clone(whole)
 	if n, ok := Num(b, 0, 3); n != 0x010203 || !ok {
 		t.Error(n, ok)
@@ -385,7 +372,7 @@ func TestReaderThatIsNil(t *testing.T) {
 
 // The spare room of what is read is not ahead.
 func TestReaderLeavesSpareRoom(t *testing.T) {
-	b, _ := roomy(0, 9, 'a')
+	b, _ := sample.Roomy(0, 9, 'a')
 	for _, read := range []func(r *Reader){
 		func(r *Reader) { r.Num(4) },
 		func(r *Reader) { r.Bytes(4) },
@@ -399,10 +386,10 @@ func TestReaderLeavesSpareRoom(t *testing.T) {
 
 // A reader keeps nothing of what it was given, and changes nothing of it.
 func TestReaderKeepsNothing(t *testing.T) {
-	b, whole := roomy(0, 2, 'a', 'b', 5, 6, 7, 8)
+	b, whole := sample.Roomy(0, 2, 'a', 'b', 5, 6, 7, 8)
 	before := bytes.Clone(whole)
 	r := Read(b)
-	scribble(whole)
+	sample.Scribble(whole)
 	if s := r.Text(); s != "ab" {
 		t.Errorf("%q", s)
 	}
@@ -413,7 +400,7 @@ func TestReaderKeepsNothing(t *testing.T) {
 	if l := r.Bytes(2); !bytes.Equal(l, []byte{7, 8}) {
 		t.Error(l)
 	} else {
-		scribble(l)
+		sample.Scribble(l)
 	}
 	if !bytes.Equal(whole, before) {
 		t.Error(whole)
@@ -426,7 +413,7 @@ func TestBytesAreNewMemory(t *testing.T) {
 	one := r.Bytes(2)
 	two := r.Bytes(2)
 	want := bytes.Clone(two)
-	scribble(one)
+	sample.Scribble(one)
 	_ = append(one, 8, 8, 8)
 	if !bytes.Equal(two, want) {
 		t.Error(two)

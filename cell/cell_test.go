@@ -8,40 +8,8 @@ import (
 	"testing"
 
 	"moneyer/api"
+	"moneyer/sample"
 )
-
-// some gives n bytes that look like nothing, always the same.
-func some(n int) []byte {
-	b := make([]byte, n)
-	x := uint32(n) + 1
-	for i := range b {
-		x = x*1664525 + 1013904223
-		b[i] = byte(x >> 24)
-	}
-	return b
-}
-
-// roomy gives b with spare room behind it, all of it 0xee, and the whole.
-func roomy(b ...byte) ([]byte, []byte) {
-	whole := slices.Concat(b, bytes.Repeat([]byte{0xee}, 64))
-	return whole[:len(b)], whole
-}
-
-// scribble writes over all of b, its spare room too.
-func scribble(b []byte) {
-	b = b[:cap(b)]
-	for i := range b {
-		b[i] = 0x55
-	}
-}
-
-func record(b ...byte) api.Cell {
-	return api.Cell{Kind: 1, Data: b}
-}
-
-func counter(lo, hi, val int) api.Cell {
-	return api.Cell{Kind: 2, Lo: lo, Hi: hi, Val: val}
-}
 
 // numbers gives numbers of 64 bits, rising: the ends, 0, and what lies about
 // them and about the widths of fewer bytes.
@@ -63,9 +31,9 @@ func otherKinds() []int {
 
 // records gives records that may be.
 func records() []api.Cell {
-	l := []api.Cell{{Kind: 1}, record([]byte{}...), record([]byte("ab")...)}
+	l := []api.Cell{{Kind: 1}, sample.Record([]byte{}...), sample.Record([]byte("ab")...)}
 	for n := range 33 {
-		l = append(l, record(some(n)...), record(make([]byte, n)...), record(bytes.Repeat([]byte{255}, n)...))
+		l = append(l, sample.Record(sample.Some(n)...), sample.Record(make([]byte, n)...), sample.Record(bytes.Repeat([]byte{255}, n)...))
 	}
 	return l
 }
@@ -77,7 +45,7 @@ func counters() []api.Cell {
 	for i, lo := range ns {
 		for j, val := range ns[i:] {
 			for _, hi := range ns[i+j:] {
-				l = append(l, counter(lo, hi, val))
+				l = append(l, sample.Counter(lo, hi, val))
 			}
 		}
 	}
@@ -93,12 +61,12 @@ func cells() []api.Cell {
 func wrongs() []api.Cell {
 	var l []api.Cell
 	for _, k := range otherKinds() {
-		l = append(l, api.Cell{Kind: k}, api.Cell{Kind: k, Data: some(2)}, api.Cell{Kind: k, Lo: -1, Hi: 5, Val: 3})
+		l = append(l, api.Cell{Kind: k}, api.Cell{Kind: k, Data: sample.Some(2)}, api.Cell{Kind: k, Lo: -1, Hi: 5, Val: 3})
 	}
 	for _, n := range []int{33, 34, 64, 255, 256, 257, 288, 512, 1<<16 + 1, 1<<16 + 32} {
-		l = append(l, record(some(n)...))
+		l = append(l, sample.Record(sample.Some(n)...))
 	}
-	for _, data := range [][]byte{nil, {}, some(1), some(32)} {
+	for _, data := range [][]byte{nil, {}, sample.Some(1), sample.Some(32)} {
 		for _, n := range numbers() {
 			if n == 0 {
 				continue
@@ -111,8 +79,8 @@ func wrongs() []api.Cell {
 	ns := numbers()
 	for _, x := range [][3]int{{0, 5, 3}, {0, 0, 0}, {-5, 5, 0}, {math.MinInt, math.MaxInt, 0}} {
 		for _, n := range []int{1, 2, 32, 33, 256} {
-			c := counter(x[0], x[1], x[2])
-			c.Data = some(n)
+			c := sample.Counter(x[0], x[1], x[2])
+			c.Data = sample.Some(n)
 			l = append(l, c)
 		}
 	}
@@ -120,7 +88,7 @@ func wrongs() []api.Cell {
 		for _, hi := range ns {
 			for _, val := range ns {
 				if lo > val || val > hi {
-					l = append(l, counter(lo, hi, val))
+					l = append(l, sample.Counter(lo, hi, val))
 				}
 			}
 		}
@@ -158,10 +126,10 @@ func TestCheck(t *testing.T) {
 	}{
 		{api.Cell{Kind: 1}, api.OK},
 		{api.Cell{Kind: 1, Data: []byte{}}, api.OK},
-		{record(0), api.OK},
-		{record(some(31)...), api.OK},
-		{record(some(32)...), api.OK},
-		{record(some(33)...), api.ErrArg},
+		{sample.Record(0), api.OK},
+		{sample.Record(sample.Some(31)...), api.OK},
+		{sample.Record(sample.Some(32)...), api.OK},
+		{sample.Record(sample.Some(33)...), api.ErrArg},
 		{api.Cell{Kind: 1, Lo: 1}, api.ErrArg},
 		{api.Cell{Kind: 1, Hi: 1}, api.ErrArg},
 		{api.Cell{Kind: 1, Val: 1}, api.ErrArg},
@@ -169,38 +137,38 @@ func TestCheck(t *testing.T) {
 		{api.Cell{Kind: 1, Hi: -1}, api.ErrArg},
 		{api.Cell{Kind: 1, Val: -1}, api.ErrArg},
 		{api.Cell{Kind: 1, Lo: -1, Hi: 1}, api.ErrArg},
-		{api.Cell{Kind: 1, Data: some(2), Lo: 3, Hi: 3, Val: 3}, api.ErrArg},
-		{counter(0, 0, 0), api.OK},
-		{counter(0, 5, 3), api.OK},
-		{counter(0, 5, 0), api.OK},
-		{counter(0, 5, 5), api.OK},
-		{counter(0, 5, -1), api.ErrArg},
-		{counter(0, 5, 6), api.ErrArg},
-		{counter(5, 0, 3), api.ErrArg},
-		{counter(5, 0, 0), api.ErrArg},
-		{counter(5, 0, 5), api.ErrArg},
-		{counter(1, 0, 0), api.ErrArg},
-		{counter(-7, -3, -5), api.OK},
-		{counter(-7, -3, -2), api.ErrArg},
-		{counter(-7, -3, -8), api.ErrArg},
-		{counter(-7, -3, 0), api.ErrArg},
-		{counter(math.MinInt, math.MaxInt, 0), api.OK},
-		{counter(math.MinInt, math.MaxInt, math.MinInt), api.OK},
-		{counter(math.MinInt, math.MaxInt, math.MaxInt), api.OK},
-		{counter(math.MinInt, math.MinInt, math.MinInt), api.OK},
-		{counter(math.MaxInt, math.MaxInt, math.MaxInt), api.OK},
-		{counter(math.MinInt, math.MinInt, math.MaxInt), api.ErrArg},
-		{counter(math.MaxInt, math.MinInt, 0), api.ErrArg},
-		{counter(math.MaxInt, math.MaxInt, math.MinInt), api.ErrArg},
-		{counter(math.MinInt, math.MaxInt-1, math.MaxInt), api.ErrArg},
-		{counter(math.MinInt+1, math.MaxInt, math.MinInt), api.ErrArg},
-		{with(counter(0, 5, 3)), api.OK},
-		{with(counter(0, 5, 3), []byte{}...), api.OK},
-		{with(counter(0, 5, 3), 0), api.ErrArg},
-		{with(counter(0, 0, 0), 1, 2), api.ErrArg},
-		{with(counter(0, 5, 3), some(32)...), api.ErrArg},
+		{api.Cell{Kind: 1, Data: sample.Some(2), Lo: 3, Hi: 3, Val: 3}, api.ErrArg},
+		{sample.Counter(0, 0, 0), api.OK},
+		{sample.Counter(0, 5, 3), api.OK},
+		{sample.Counter(0, 5, 0), api.OK},
+		{sample.Counter(0, 5, 5), api.OK},
+		{sample.Counter(0, 5, -1), api.ErrArg},
+		{sample.Counter(0, 5, 6), api.ErrArg},
+		{sample.Counter(5, 0, 3), api.ErrArg},
+		{sample.Counter(5, 0, 0), api.ErrArg},
+		{sample.Counter(5, 0, 5), api.ErrArg},
+		{sample.Counter(1, 0, 0), api.ErrArg},
+		{sample.Counter(-7, -3, -5), api.OK},
+		{sample.Counter(-7, -3, -2), api.ErrArg},
+		{sample.Counter(-7, -3, -8), api.ErrArg},
+		{sample.Counter(-7, -3, 0), api.ErrArg},
+		{sample.Counter(math.MinInt, math.MaxInt, 0), api.OK},
+		{sample.Counter(math.MinInt, math.MaxInt, math.MinInt), api.OK},
+		{sample.Counter(math.MinInt, math.MaxInt, math.MaxInt), api.OK},
+		{sample.Counter(math.MinInt, math.MinInt, math.MinInt), api.OK},
+		{sample.Counter(math.MaxInt, math.MaxInt, math.MaxInt), api.OK},
+		{sample.Counter(math.MinInt, math.MinInt, math.MaxInt), api.ErrArg},
+		{sample.Counter(math.MaxInt, math.MinInt, 0), api.ErrArg},
+		{sample.Counter(math.MaxInt, math.MaxInt, math.MinInt), api.ErrArg},
+		{sample.Counter(math.MinInt, math.MaxInt-1, math.MaxInt), api.ErrArg},
+		{sample.Counter(math.MinInt+1, math.MaxInt, math.MinInt), api.ErrArg},
+		{with(sample.Counter(0, 5, 3)), api.OK},
+		{with(sample.Counter(0, 5, 3), []byte{}...), api.OK},
+		{with(sample.Counter(0, 5, 3), 0), api.ErrArg},
+		{with(sample.Counter(0, 0, 0), 1, 2), api.ErrArg},
+		{with(sample.Counter(0, 5, 3), sample.Some(32)...), api.ErrArg},
 		{api.Cell{}, api.ErrArg},
-		{api.Cell{Data: some(2)}, api.ErrArg},
+		{api.Cell{Data: sample.Some(2)}, api.ErrArg},
 		{api.Cell{Hi: 5, Val: 3}, api.ErrArg},
 		{api.Cell{Kind: 3}, api.ErrArg},
 		{api.Cell{Kind: -1}, api.ErrArg},
@@ -230,14 +198,14 @@ func TestCheckOfEachLength(t *testing.T) {
 		if n <= 32 {
 			want = api.OK
 		}
-		if got := Check(record(some(n)...)); got != want {
+		if got := Check(sample.Record(sample.Some(n)...)); got != want {
 			t.Errorf("a record of %d bytes: %d, want %d", n, got, want)
 		}
 		want = api.ErrArg
 		if n == 0 {
 			want = api.OK
 		}
-		if got := Check(api.Cell{Kind: 2, Data: some(n), Hi: 5, Val: 3}); got != want {
+		if got := Check(api.Cell{Kind: 2, Data: sample.Some(n), Hi: 5, Val: 3}); got != want {
 			t.Errorf("a counter with %d bytes: %d, want %d", n, got, want)
 		}
 	}
@@ -256,11 +224,11 @@ func TestCheckOfOtherKinds(t *testing.T) {
 
 // Room behind a list is not in it.
 func TestCheckLeavesSpareRoomOut(t *testing.T) {
-	data, _ := roomy(some(32)...)
-	if got := Check(record(data...)); got != api.OK {
+	data, _ := sample.Roomy(sample.Some(32)...)
+	if got := Check(sample.Record(data...)); got != api.OK {
 		t.Error(got)
 	}
-	none, _ := roomy()
+	none, _ := sample.Roomy()
 	if got := Check(api.Cell{Kind: 2, Data: none, Hi: 5}); got != api.OK {
 		t.Error(got)
 	}
@@ -274,29 +242,29 @@ func TestSame(t *testing.T) {
 		{api.Cell{}, api.Cell{}, true},
 		{api.Cell{}, api.Cell{Data: []byte{}}, true},
 		{api.Cell{Kind: 1}, api.Cell{Kind: 1, Data: []byte{}}, true},
-		{counter(0, 5, 3), api.Cell{Kind: 2, Data: []byte{}, Hi: 5, Val: 3}, true},
-		{record(1, 2), record(1, 2), true},
-		{record(1, 2), record(1, 3), false},
-		{record(1, 2), record(0, 2), false},
-		{record(1, 2), record(2, 1), false},
-		{record(1, 2), record(1), false},
-		{record(1, 2), record(1, 2, 0), false},
-		{record(0), record(), false},
-		{record(), api.Cell{}, false},
-		{counter(0, 5, 3), counter(0, 5, 3), true},
-		{counter(0, 5, 3), counter(0, 5, 4), false},
-		{counter(0, 5, 3), counter(0, 6, 3), false},
-		{counter(0, 5, 3), counter(1, 5, 3), false},
-		{counter(0, 5, 3), counter(3, 0, 5), false},
-		{counter(0, 5, 3), counter(5, 0, 3), false},
-		{counter(0, 0, 0), record(), false},
-		{counter(math.MinInt, math.MaxInt, 0), counter(math.MinInt, math.MaxInt, 0), true},
-		{counter(math.MinInt, math.MaxInt, 0), counter(math.MaxInt, math.MinInt, 0), false},
-		{counter(0, 1<<32, 0), counter(0, 0, 0), false},
+		{sample.Counter(0, 5, 3), api.Cell{Kind: 2, Data: []byte{}, Hi: 5, Val: 3}, true},
+		{sample.Record(1, 2), sample.Record(1, 2), true},
+		{sample.Record(1, 2), sample.Record(1, 3), false},
+		{sample.Record(1, 2), sample.Record(0, 2), false},
+		{sample.Record(1, 2), sample.Record(2, 1), false},
+		{sample.Record(1, 2), sample.Record(1), false},
+		{sample.Record(1, 2), sample.Record(1, 2, 0), false},
+		{sample.Record(0), sample.Record(), false},
+		{sample.Record(), api.Cell{}, false},
+		{sample.Counter(0, 5, 3), sample.Counter(0, 5, 3), true},
+		{sample.Counter(0, 5, 3), sample.Counter(0, 5, 4), false},
+		{sample.Counter(0, 5, 3), sample.Counter(0, 6, 3), false},
+		{sample.Counter(0, 5, 3), sample.Counter(1, 5, 3), false},
+		{sample.Counter(0, 5, 3), sample.Counter(3, 0, 5), false},
+		{sample.Counter(0, 5, 3), sample.Counter(5, 0, 3), false},
+		{sample.Counter(0, 0, 0), sample.Record(), false},
+		{sample.Counter(math.MinInt, math.MaxInt, 0), sample.Counter(math.MinInt, math.MaxInt, 0), true},
+		{sample.Counter(math.MinInt, math.MaxInt, 0), sample.Counter(math.MaxInt, math.MinInt, 0), false},
+		{sample.Counter(0, 1<<32, 0), sample.Counter(0, 0, 0), false},
 		{api.Cell{Kind: 257}, api.Cell{Kind: 1}, false},
 		{api.Cell{Kind: 257}, api.Cell{Kind: 257}, true},
-		{api.Cell{Kind: -1, Data: some(40), Lo: 5}, api.Cell{Kind: -1, Data: some(40), Lo: 5}, true},
-		{api.Cell{Kind: -1, Data: some(40), Lo: 5}, api.Cell{Kind: -1, Data: some(40), Lo: 4}, false},
+		{api.Cell{Kind: -1, Data: sample.Some(40), Lo: 5}, api.Cell{Kind: -1, Data: sample.Some(40), Lo: 5}, true},
+		{api.Cell{Kind: -1, Data: sample.Some(40), Lo: 5}, api.Cell{Kind: -1, Data: sample.Some(40), Lo: 4}, false},
 	} {
 		if got := Same(x.a, x.b); got != x.want {
 			t.Errorf("Same(%v, %v) = %v", x.a, x.b, got)
@@ -349,8 +317,8 @@ func TestSameOfAllPairs(t *testing.T) {
 
 // Room behind a list is of no matter.
 func TestSameLeavesSpareRoomOut(t *testing.T) {
-	one, _ := roomy(1, 2)
-	two, whole := roomy(1, 2)
+	one, _ := sample.Roomy(1, 2)
+	two, whole := sample.Roomy(1, 2)
 	whole[2] = 0
 	if !Same(api.Cell{Kind: 1, Data: one}, api.Cell{Kind: 1, Data: two}) {
 		t.Error("unlike")
@@ -368,16 +336,16 @@ func TestPut(t *testing.T) {
 		c    api.Cell
 		want []byte
 	}{
-		{nil, record('a', 'b'), []byte{1, 2, 97, 98}},
-		{nil, record(), []byte{1, 0}},
+		{nil, sample.Record('a', 'b'), []byte{1, 2, 97, 98}},
+		{nil, sample.Record(), []byte{1, 0}},
 		{nil, api.Cell{Kind: 1, Data: []byte{}}, []byte{1, 0}},
-		{[]byte{}, record(0), []byte{1, 1, 0}},
-		{[]byte{7, 8}, record(9), []byte{7, 8, 1, 1, 9}},
-		{[]byte{1, 2}, record(), []byte{1, 2, 1, 0}},
-		{nil, record(some(32)...), append([]byte{1, 32}, some(32)...)},
-		{nil, counter(0, 5, 3), []byte{2, 0, 0, 0, 0, 0, 0, 0, 0, 0, 0, 0, 0, 0, 0, 0, 5, 0, 0, 0, 0, 0, 0, 0, 3}},
-		{[]byte{7}, counter(-1, 258, 0), []byte{7, 2, 255, 255, 255, 255, 255, 255, 255, 255, 0, 0, 0, 0, 0, 0, 1, 2, 0, 0, 0, 0, 0, 0, 0, 0}},
-		{nil, counter(math.MinInt, math.MaxInt, -2), []byte{2, 128, 0, 0, 0, 0, 0, 0, 0, 127, 255, 255, 255, 255, 255, 255, 255, 255, 255, 255, 255, 255, 255, 255, 254}},
+		{[]byte{}, sample.Record(0), []byte{1, 1, 0}},
+		{[]byte{7, 8}, sample.Record(9), []byte{7, 8, 1, 1, 9}},
+		{[]byte{1, 2}, sample.Record(), []byte{1, 2, 1, 0}},
+		{nil, sample.Record(sample.Some(32)...), append([]byte{1, 32}, sample.Some(32)...)},
+		{nil, sample.Counter(0, 5, 3), []byte{2, 0, 0, 0, 0, 0, 0, 0, 0, 0, 0, 0, 0, 0, 0, 0, 5, 0, 0, 0, 0, 0, 0, 0, 3}},
+		{[]byte{7}, sample.Counter(-1, 258, 0), []byte{7, 2, 255, 255, 255, 255, 255, 255, 255, 255, 0, 0, 0, 0, 0, 0, 1, 2, 0, 0, 0, 0, 0, 0, 0, 0}},
+		{nil, sample.Counter(math.MinInt, math.MaxInt, -2), []byte{2, 128, 0, 0, 0, 0, 0, 0, 0, 127, 255, 255, 255, 255, 255, 255, 255, 255, 255, 255, 255, 255, 255, 255, 254}},
 	} {
 		if got := Put(x.b, x.c); !bytes.Equal(got, x.want) {
 			t.Errorf("Put(%v, %v) = %v, want %v", x.b, x.c, got, x.want)
@@ -387,7 +355,7 @@ func TestPut(t *testing.T) {
 
 // heads gives what may stand ahead of a cell.
 func heads() [][]byte {
-	return [][]byte{nil, {}, {0}, {1, 2}, {2}, some(7), some(300)}
+	return [][]byte{nil, {}, {0}, {1, 2}, {2}, sample.Some(7), sample.Some(300)}
 }
 
 func TestPutOfMany(t *testing.T) {
@@ -440,17 +408,17 @@ func TestGet(t *testing.T) {
 		want api.Cell
 		n    int
 	}{
-		{[]byte{1, 2, 97, 98}, record('a', 'b'), 4},
-		{[]byte{1, 2, 97, 98, 99}, record('a', 'b'), 4},
-		{[]byte{1, 0}, record(), 2},
-		{[]byte{1, 0, 1, 0}, record(), 2},
-		{[]byte{1, 1, 255, 3}, record(255), 3},
-		{append([]byte{1, 32}, some(32)...), record(some(32)...), 34},
-		{append([]byte{1, 32}, some(33)...), record(some(33)[:32]...), 34},
+		{[]byte{1, 2, 97, 98}, sample.Record('a', 'b'), 4},
+		{[]byte{1, 2, 97, 98, 99}, sample.Record('a', 'b'), 4},
+		{[]byte{1, 0}, sample.Record(), 2},
+		{[]byte{1, 0, 1, 0}, sample.Record(), 2},
+		{[]byte{1, 1, 255, 3}, sample.Record(255), 3},
+		{append([]byte{1, 32}, sample.Some(32)...), sample.Record(sample.Some(32)...), 34},
+		{append([]byte{1, 32}, sample.Some(33)...), sample.Record(sample.Some(33)[:32]...), 34},
 		{make([]byte, 25), api.Cell{}, 0},
-		{[]byte{2, 255, 255, 255, 255, 255, 255, 255, 255, 0, 0, 0, 0, 0, 0, 1, 2, 0, 0, 0, 0, 0, 0, 0, 7}, counter(-1, 258, 7), 25},
-		{append(append([]byte{2}, make([]byte, 24)...), 9), counter(0, 0, 0), 25},
-		{[]byte{2, 128, 0, 0, 0, 0, 0, 0, 0, 127, 255, 255, 255, 255, 255, 255, 255, 255, 255, 255, 255, 255, 255, 255, 254}, counter(math.MinInt, math.MaxInt, -2), 25},
+		{[]byte{2, 255, 255, 255, 255, 255, 255, 255, 255, 0, 0, 0, 0, 0, 0, 1, 2, 0, 0, 0, 0, 0, 0, 0, 7}, sample.Counter(-1, 258, 7), 25},
+		{append(append([]byte{2}, make([]byte, 24)...), 9), sample.Counter(0, 0, 0), 25},
+		{[]byte{2, 128, 0, 0, 0, 0, 0, 0, 0, 127, 255, 255, 255, 255, 255, 255, 255, 255, 255, 255, 255, 255, 255, 255, 254}, sample.Counter(math.MinInt, math.MaxInt, -2), 25},
 	} {
 		want := api.OK
 		if x.n == 0 {
@@ -493,7 +461,7 @@ func TestGetOfCutBytes(t *testing.T) {
 func TestGetOfBytesThatGoOn(t *testing.T) {
 	for _, c := range cells() {
 		b := wrote(c)
-		for _, tail := range [][]byte{nil, {0}, {255}, {1, 0}, some(300), b} {
+		for _, tail := range [][]byte{nil, {0}, {255}, {1, 0}, sample.Some(300), b} {
 			got, n, err := Get(slices.Concat(b, tail))
 			if !like(got, c) || n != len(b) || err != api.OK {
 				t.Errorf("%v, and %v behind it: %v, %d, %d", c, tail, got, n, err)
@@ -509,7 +477,7 @@ func TestGetOfOtherKinds(t *testing.T) {
 			continue
 		}
 		fails(t, []byte{byte(k)}, api.ErrForm)
-		for _, tail := range [][]byte{{0}, {1}, {2, 97, 98}, {255}, make([]byte, 24), some(24), some(300)} {
+		for _, tail := range [][]byte{{0}, {1}, {2, 97, 98}, {255}, make([]byte, 24), sample.Some(24), sample.Some(300)} {
 			fails(t, append([]byte{byte(k)}, tail...), api.ErrForm)
 		}
 	}
@@ -519,7 +487,7 @@ func TestGetOfOtherKinds(t *testing.T) {
 // all that it claims is there.
 func TestGetOfEachCount(t *testing.T) {
 	for count := range 256 {
-		b := append([]byte{1, byte(count)}, some(300)...)
+		b := append([]byte{1, byte(count)}, sample.Some(300)...)
 		for i := range count + 2 {
 			fails(t, b[:i], api.ErrShort)
 		}
@@ -529,7 +497,7 @@ func TestGetOfEachCount(t *testing.T) {
 				continue
 			}
 			c, n, err := Get(b[:end])
-			if !like(c, record(b[2:count+2]...)) || n != count+2 || err != api.OK {
+			if !like(c, sample.Record(b[2:count+2]...)) || n != count+2 || err != api.OK {
 				t.Errorf("of %d bytes: %v, %d, %d", count, c, n, err)
 			}
 		}
@@ -555,7 +523,7 @@ func TestGetOfWrongCounters(t *testing.T) {
 func TestGetOfAnyBytes(t *testing.T) {
 	for k := range 4 {
 		for n := range 60 {
-			b := append([]byte{byte(k)}, some(n)...)
+			b := append([]byte{byte(k)}, sample.Some(n)...)
 			if n > 0 && n%3 == 0 {
 				b[1] %= 40
 			}
@@ -572,8 +540,8 @@ func TestGetOfAnyBytes(t *testing.T) {
 
 // Beside great ones too: what lies far behind a cell is of no matter.
 func TestGetOfManyBytes(t *testing.T) {
-	tail := some(1 << 20)
-	for _, c := range []api.Cell{record(), record(some(32)...), counter(-3, 3, 0)} {
+	tail := sample.Some(1 << 20)
+	for _, c := range []api.Cell{sample.Record(), sample.Record(sample.Some(32)...), sample.Counter(-3, 3, 0)} {
 		b := append(wrote(c), tail...)
 		if got, n, err := Get(b); !like(got, c) || n != len(wrote(c)) || err != api.OK {
 			t.Errorf("%v: %v, %d, %d", c, got, n, err)
@@ -591,7 +559,7 @@ func told(c api.Cell, val int) (api.Cell, api.Errno) {
 	case val < c.Lo || val > c.Hi:
 		return api.Cell{}, api.ErrBounds
 	}
-	return counter(c.Lo, c.Hi, val), api.OK
+	return sample.Counter(c.Lo, c.Hi, val), api.OK
 }
 
 func TestSet(t *testing.T) {
@@ -601,34 +569,34 @@ func TestSet(t *testing.T) {
 		want api.Cell
 		err  api.Errno
 	}{
-		{counter(0, 5, 3), 4, counter(0, 5, 4), api.OK},
-		{counter(0, 5, 3), 3, counter(0, 5, 3), api.OK},
-		{counter(0, 5, 3), 0, counter(0, 5, 0), api.OK},
-		{counter(0, 5, 3), 5, counter(0, 5, 5), api.OK},
-		{counter(0, 5, 3), -1, api.Cell{}, api.ErrBounds},
-		{counter(0, 5, 3), 6, api.Cell{}, api.ErrBounds},
-		{counter(0, 5, 3), math.MinInt, api.Cell{}, api.ErrBounds},
-		{counter(0, 5, 3), math.MaxInt, api.Cell{}, api.ErrBounds},
-		{counter(-7, -3, -5), -7, counter(-7, -3, -7), api.OK},
-		{counter(-7, -3, -5), -3, counter(-7, -3, -3), api.OK},
-		{counter(-7, -3, -5), -8, api.Cell{}, api.ErrBounds},
-		{counter(-7, -3, -5), 0, api.Cell{}, api.ErrBounds},
-		{counter(4, 4, 4), 4, counter(4, 4, 4), api.OK},
-		{counter(4, 4, 4), 3, api.Cell{}, api.ErrBounds},
-		{counter(4, 4, 4), 5, api.Cell{}, api.ErrBounds},
-		{counter(math.MinInt, math.MaxInt, 0), math.MinInt, counter(math.MinInt, math.MaxInt, math.MinInt), api.OK},
-		{counter(math.MinInt, math.MaxInt, 0), math.MaxInt, counter(math.MinInt, math.MaxInt, math.MaxInt), api.OK},
-		{api.Cell{Kind: 2, Data: []byte{}, Hi: 5}, 1, counter(0, 5, 1), api.OK},
-		{counter(0, 5, 6), 3, api.Cell{}, api.ErrKind},
-		{counter(0, 5, -1), 3, api.Cell{}, api.ErrKind},
-		{counter(5, 0, 3), 3, api.Cell{}, api.ErrKind},
-		{counter(5, 0, 3), 9, api.Cell{}, api.ErrKind},
-		{api.Cell{Kind: 2, Data: some(1), Hi: 5, Val: 3}, 3, api.Cell{}, api.ErrKind},
-		{api.Cell{Kind: 2, Data: some(1), Hi: 5, Val: 3}, 6, api.Cell{}, api.ErrKind},
-		{record(), 0, api.Cell{}, api.ErrKind},
-		{record('a', 'b'), 0, api.Cell{}, api.ErrKind},
-		{record('a', 'b'), 1, api.Cell{}, api.ErrKind},
-		{record(some(33)...), 0, api.Cell{}, api.ErrKind},
+		{sample.Counter(0, 5, 3), 4, sample.Counter(0, 5, 4), api.OK},
+		{sample.Counter(0, 5, 3), 3, sample.Counter(0, 5, 3), api.OK},
+		{sample.Counter(0, 5, 3), 0, sample.Counter(0, 5, 0), api.OK},
+		{sample.Counter(0, 5, 3), 5, sample.Counter(0, 5, 5), api.OK},
+		{sample.Counter(0, 5, 3), -1, api.Cell{}, api.ErrBounds},
+		{sample.Counter(0, 5, 3), 6, api.Cell{}, api.ErrBounds},
+		{sample.Counter(0, 5, 3), math.MinInt, api.Cell{}, api.ErrBounds},
+		{sample.Counter(0, 5, 3), math.MaxInt, api.Cell{}, api.ErrBounds},
+		{sample.Counter(-7, -3, -5), -7, sample.Counter(-7, -3, -7), api.OK},
+		{sample.Counter(-7, -3, -5), -3, sample.Counter(-7, -3, -3), api.OK},
+		{sample.Counter(-7, -3, -5), -8, api.Cell{}, api.ErrBounds},
+		{sample.Counter(-7, -3, -5), 0, api.Cell{}, api.ErrBounds},
+		{sample.Counter(4, 4, 4), 4, sample.Counter(4, 4, 4), api.OK},
+		{sample.Counter(4, 4, 4), 3, api.Cell{}, api.ErrBounds},
+		{sample.Counter(4, 4, 4), 5, api.Cell{}, api.ErrBounds},
+		{sample.Counter(math.MinInt, math.MaxInt, 0), math.MinInt, sample.Counter(math.MinInt, math.MaxInt, math.MinInt), api.OK},
+		{sample.Counter(math.MinInt, math.MaxInt, 0), math.MaxInt, sample.Counter(math.MinInt, math.MaxInt, math.MaxInt), api.OK},
+		{api.Cell{Kind: 2, Data: []byte{}, Hi: 5}, 1, sample.Counter(0, 5, 1), api.OK},
+		{sample.Counter(0, 5, 6), 3, api.Cell{}, api.ErrKind},
+		{sample.Counter(0, 5, -1), 3, api.Cell{}, api.ErrKind},
+		{sample.Counter(5, 0, 3), 3, api.Cell{}, api.ErrKind},
+		{sample.Counter(5, 0, 3), 9, api.Cell{}, api.ErrKind},
+		{api.Cell{Kind: 2, Data: sample.Some(1), Hi: 5, Val: 3}, 3, api.Cell{}, api.ErrKind},
+		{api.Cell{Kind: 2, Data: sample.Some(1), Hi: 5, Val: 3}, 6, api.Cell{}, api.ErrKind},
+		{sample.Record(), 0, api.Cell{}, api.ErrKind},
+		{sample.Record('a', 'b'), 0, api.Cell{}, api.ErrKind},
+		{sample.Record('a', 'b'), 1, api.Cell{}, api.ErrKind},
+		{sample.Record(sample.Some(33)...), 0, api.Cell{}, api.ErrKind},
 		{api.Cell{}, 0, api.Cell{}, api.ErrKind},
 		{api.Cell{Hi: 5, Val: 3}, 3, api.Cell{}, api.ErrKind},
 		{api.Cell{Kind: 3, Hi: 5, Val: 3}, 3, api.Cell{}, api.ErrKind},
@@ -662,13 +630,13 @@ func TestSetOfMany(t *testing.T) {
 // What is handed in stays as it was, its spare room included; so does what was
 // answered, whatever becomes of what was handed in.
 func TestPutLeavesWhatItWasHanded(t *testing.T) {
-	data, behind := roomy(5, 6, 7)
-	none, nowhere := roomy()
+	data, behind := sample.Roomy(5, 6, 7)
+	none, nowhere := sample.Roomy()
 	for _, c := range []api.Cell{
 		{Kind: 1, Data: data}, {Kind: 1, Data: none}, {Kind: 1, Data: data, Lo: 1}, {Kind: 3, Data: data},
 		{Kind: 2, Data: none, Hi: 5}, {Kind: 2, Data: none, Hi: -1}, {Kind: 2, Data: data},
 	} {
-		b, whole := roomy(1, 2, 3)
+		b, whole := sample.Roomy(1, 2, 3)
 		wholeWas, behindWas, nowhereWas := bytes.Clone(whole), bytes.Clone(behind), bytes.Clone(nowhere)
 		stays := func(when string) {
 			t.Helper()
@@ -679,14 +647,14 @@ func TestPutLeavesWhatItWasHanded(t *testing.T) {
 		one, two := Put(b, c), Put(b, c)
 		stays("by the call")
 		want := bytes.Clone(one)
-		scribble(one)
+		sample.Scribble(one)
 		stays("by way of what it answered")
 		if !bytes.Equal(two, want) {
 			t.Errorf("Put of %v: two answers share their memory", c)
 		}
-		scribble(whole)
-		scribble(behind)
-		scribble(nowhere)
+		sample.Scribble(whole)
+		sample.Scribble(behind)
+		sample.Scribble(nowhere)
 		if !bytes.Equal(two, want) {
 			t.Errorf("Put of %v: it has kept what it was handed", c)
 		}
@@ -696,10 +664,10 @@ func TestPutLeavesWhatItWasHanded(t *testing.T) {
 }
 
 func TestPutBehindNothingIsNewMemory(t *testing.T) {
-	_, whole := roomy()
+	_, whole := sample.Roomy()
 	was := bytes.Clone(whole)
-	for _, c := range []api.Cell{record(), record(some(32)...), counter(0, 5, 3), {}} {
-		scribble(Put(whole[:0], c))
+	for _, c := range []api.Cell{sample.Record(), sample.Record(sample.Some(32)...), sample.Counter(0, 5, 3), {}} {
+		sample.Scribble(Put(whole[:0], c))
 		if !bytes.Equal(whole, was) {
 			t.Errorf("Put of %v behind nothing writes into its spare room", c)
 		}
@@ -708,10 +676,10 @@ func TestPutBehindNothingIsNewMemory(t *testing.T) {
 
 func TestGetLeavesWhatItWasHanded(t *testing.T) {
 	for _, x := range [][]byte{
-		wrote(record()), wrote(record(5, 6, 7)), wrote(record(some(32)...)), wrote(counter(-1, 5, 3)),
-		{}, {0}, {1}, {1, 3, 5}, {2, 0}, append([]byte{1, 33}, some(33)...), wrote(counter(5, 0, 3)),
+		wrote(sample.Record()), wrote(sample.Record(5, 6, 7)), wrote(sample.Record(sample.Some(32)...)), wrote(sample.Counter(-1, 5, 3)),
+		{}, {0}, {1}, {1, 3, 5}, {2, 0}, append([]byte{1, 33}, sample.Some(33)...), wrote(sample.Counter(5, 0, 3)),
 	} {
-		b, whole := roomy(x...)
+		b, whole := sample.Roomy(x...)
 		was := bytes.Clone(whole)
 		one, n, err := Get(b)
 		two, _, _ := Get(b)
@@ -720,14 +688,14 @@ func TestGetLeavesWhatItWasHanded(t *testing.T) {
 		}
 		want := two
 		want.Data = bytes.Clone(two.Data)
-		scribble(one.Data)
+		sample.Scribble(one.Data)
 		if !bytes.Equal(whole, was) {
 			t.Errorf("Get(%v) gives out what it was handed", x)
 		}
 		if !like(two, want) {
 			t.Errorf("two answers to Get(%v) share their memory", x)
 		}
-		scribble(whole)
+		sample.Scribble(whole)
 		if !like(two, want) {
 			t.Errorf("Get(%v) has kept it", x)
 		}
@@ -742,12 +710,12 @@ func TestGetLeavesWhatItWasHanded(t *testing.T) {
 func TestSetLeavesWhatItWasHanded(t *testing.T) {
 	for _, n := range []int{0, 3} {
 		for _, kind := range []int{1, 2, 3} {
-			data, whole := roomy(some(n)...)
+			data, whole := sample.Roomy(sample.Some(n)...)
 			was := bytes.Clone(whole)
 			c := api.Cell{Kind: kind, Data: data, Hi: 5, Val: 3}
 			for _, val := range []int{4, 6} {
 				got, _ := Set(c, val)
-				scribble(got.Data)
+				sample.Scribble(got.Data)
 				if !bytes.Equal(whole, was) || c.Val != 3 {
 					t.Errorf("Set(%v, %d) gives out what it was handed", c, val)
 				}
@@ -758,8 +726,8 @@ func TestSetLeavesWhatItWasHanded(t *testing.T) {
 
 func TestCheckAndSameLeaveWhatTheyWereHanded(t *testing.T) {
 	for _, n := range []int{0, 2, 32, 33} {
-		data, whole := roomy(some(n)...)
-		other, behind := roomy(some(n)...)
+		data, whole := sample.Roomy(sample.Some(n)...)
+		other, behind := sample.Roomy(sample.Some(n)...)
 		was := bytes.Clone(whole)
 		for _, kind := range []int{0, 1, 2} {
 			c := api.Cell{Kind: kind, Data: data, Hi: 5, Val: 3}
@@ -778,7 +746,7 @@ func TestCheckAndSameLeaveWhatTheyWereHanded(t *testing.T) {
 func TestNilAndEmptyDataAreAlike(t *testing.T) {
 	for _, x := range []api.Cell{
 		{}, {Kind: 1}, {Kind: 2}, {Kind: 3}, {Kind: 1, Lo: 1}, {Kind: 1, Val: 1},
-		counter(0, 5, 3), counter(5, 0, 3), counter(math.MinInt, math.MaxInt, 0),
+		sample.Counter(0, 5, 3), sample.Counter(5, 0, 3), sample.Counter(math.MinInt, math.MaxInt, 0),
 	} {
 		y := x
 		y.Data = []byte{}
@@ -853,7 +821,7 @@ func TestSetAndBack(t *testing.T) {
 // The chapter's example
 
 func TestExample(t *testing.T) {
-	if got := Put(nil, record([]byte("ab")...)); !bytes.Equal(got, []byte{1, 2, 97, 98}) {
+	if got := Put(nil, sample.Record([]byte("ab")...)); !bytes.Equal(got, []byte{1, 2, 97, 98}) {
 		t.Error(got)
 	}
 }

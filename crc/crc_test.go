@@ -5,6 +5,8 @@ import (
 	"hash/crc32"
 	"math"
 	"testing"
+
+	"moneyer/sample"
 )
 
 // told sums b as the chapter tells it, bit by bit.
@@ -23,25 +25,14 @@ func told(b []byte) uint32 {
 	return ^sum
 }
 
-// some gives n bytes that look like nothing, always the same.
-func some(n int) []byte {
-	b := make([]byte, n)
-	x := uint32(n) + 1
-	for i := range b {
-		x = x*1664525 + 1013904223
-		b[i] = byte(x >> 24)
-	}
-	return b
-}
-
 // lists gives bytes of many lengths and kinds.
 func lists() [][]byte {
 	l := [][]byte{nil, {}}
 	for n := 1; n <= 40; n++ {
-		l = append(l, make([]byte, n), bytes.Repeat([]byte{255}, n), some(n))
+		l = append(l, make([]byte, n), bytes.Repeat([]byte{255}, n), sample.Some(n))
 	}
 	for _, n := range []int{255, 256, 257, 508, 512, 4096, 1<<16 + 1} {
-		l = append(l, make([]byte, n), bytes.Repeat([]byte{255}, n), some(n))
+		l = append(l, make([]byte, n), bytes.Repeat([]byte{255}, n), sample.Some(n))
 	}
 	return l
 }
@@ -112,7 +103,7 @@ func TestSumIsAsTold(t *testing.T) {
 // Another hand's Castagnoli tells the same.
 func TestSumIsCastagnoli(t *testing.T) {
 	c := crc32.MakeTable(crc32.Castagnoli)
-	for _, b := range append(lists(), some(1<<20)) {
+	for _, b := range append(lists(), sample.Some(1<<20)) {
 		if got, want := Sum(b), crc32.Checksum(b, c); got != want {
 			t.Errorf("of %d bytes: %#x, want %#x", len(b), got, want)
 		}
@@ -120,7 +111,7 @@ func TestSumIsCastagnoli(t *testing.T) {
 }
 
 func TestMore(t *testing.T) {
-	for _, b := range [][]byte{[]byte("123456789"), some(300), make([]byte, 40)} {
+	for _, b := range [][]byte{[]byte("123456789"), sample.Some(300), make([]byte, 40)} {
 		want := told(b)
 		for i := range len(b) + 1 {
 			if got := More(Sum(b[:i]), b[i:]); got != want {
@@ -135,7 +126,7 @@ func TestMore(t *testing.T) {
 }
 
 func TestMoreByteByByte(t *testing.T) {
-	b := some(300)
+	b := sample.Some(300)
 	sum := Sum(nil)
 	for i := range b {
 		sum = More(sum, b[i:i+1])
@@ -175,7 +166,7 @@ func sums() []uint32 {
 func TestMoreOntoAnySum(t *testing.T) {
 	c := crc32.MakeTable(crc32.Castagnoli)
 	for _, sum := range sums() {
-		for _, b := range [][]byte{{0}, {255}, []byte("123456789"), some(100)} {
+		for _, b := range [][]byte{{0}, {255}, []byte("123456789"), sample.Some(100)} {
 			if got, want := More(sum, b), crc32.Update(sum, c, b); got != want {
 				t.Errorf("More(%#x, %v) = %#x, want %#x", sum, b, got, want)
 			}
@@ -295,7 +286,7 @@ func TestGoodOfASumThatStandsElsewhere(t *testing.T) {
 }
 
 func TestGoodOfBytesCutOff(t *testing.T) {
-	for _, b := range [][]byte{{0}, {255}, []byte("a"), []byte("123456789"), some(60), make([]byte, 60)} {
+	for _, b := range [][]byte{{0}, {255}, []byte("a"), []byte("123456789"), sample.Some(60), make([]byte, 60)} {
 		s := Seal(b)
 		for n := range s {
 			// What is cut off is spare room now, which is not summed.
@@ -314,7 +305,7 @@ func TestGoodOfBytesCutOff(t *testing.T) {
 }
 
 func TestGoodOfBytesPutToIt(t *testing.T) {
-	for _, b := range [][]byte{nil, {0}, {255}, []byte("123456789"), some(60), make([]byte, 60)} {
+	for _, b := range [][]byte{nil, {0}, {255}, []byte("123456789"), sample.Some(60), make([]byte, 60)} {
 		s := Seal(b)
 		for i := range 256 {
 			x := []byte{byte(i)}
@@ -374,7 +365,7 @@ func patterns() []uint32 {
 
 func TestBitsTurnedWithin32(t *testing.T) {
 	all := patterns()
-	for _, b := range [][]byte{make([]byte, 4), some(4), make([]byte, 20), bytes.Repeat([]byte{255}, 20), some(20)} {
+	for _, b := range [][]byte{make([]byte, 4), sample.Some(4), make([]byte, 20), bytes.Repeat([]byte{255}, 20), sample.Some(20)} {
 		s := Seal(b)
 		for at := 32; at <= 8*len(s)-32; at++ {
 			for _, pattern := range all {
@@ -402,7 +393,7 @@ func TestAllBitsOfFewTurned(t *testing.T) {
 // bits is missed, if none of them does what some others do together.
 func TestNoPatternIsMissed(t *testing.T) {
 	const n = 600
-	for _, b := range [][]byte{make([]byte, n), some(n)} {
+	for _, b := range [][]byte{make([]byte, n), sample.Some(n)} {
 		sum := Sum(b)
 		for _, at := range []int{0, 1, 7, 8, 33, 8*n/2 - 16, 8*n/2 - 3, 8*n - 39, 8*n - 33, 8*n - 32} {
 			var does []uint32
@@ -444,22 +435,9 @@ func rank(l []uint32) int {
 
 // What is handed in
 
-// roomy gives b with spare room behind it, and the whole.
-func roomy(b []byte) ([]byte, []byte) {
-	whole := with(b, bytes.Repeat([]byte{0xee}, 64))
-	return whole[:len(b)], whole
-}
-
-// scribble writes over all of b, its spare room too.
-func scribble(b []byte) {
-	for i := range b[:cap(b)] {
-		b[:cap(b)][i] = 0x55
-	}
-}
-
 func TestNothingIsChanged(t *testing.T) {
 	for _, b := range [][]byte{nil, []byte("a"), []byte("123456789"), Seal(nil), Seal([]byte("123456789"))} {
-		given, whole := roomy(b)
+		given, whole := sample.Roomy(b...)
 		before := bytes.Clone(whole)
 		for range 2 {
 			// Asked again it tells the same: the spare room is not summed.
@@ -484,19 +462,19 @@ func TestNothingIsChanged(t *testing.T) {
 
 // The answer of Seal and what it was given do not reach one another.
 func TestSealIsNewMemory(t *testing.T) {
-	for _, b := range [][]byte{nil, []byte("a"), []byte("123456789"), some(500)} {
-		given, whole := roomy(b)
+	for _, b := range [][]byte{nil, []byte("a"), []byte("123456789"), sample.Some(500)} {
+		given, whole := sample.Roomy(b...)
 		before := bytes.Clone(whole)
 		one, two := Seal(given), Seal(given)
 		want := bytes.Clone(two)
-		scribble(one)
+		sample.Scribble(one)
 		if !bytes.Equal(whole, before) {
 			t.Errorf("%v: the answer reaches what was given", b)
 		}
 		if !bytes.Equal(two, want) {
 			t.Errorf("%v: an answer reaches another one", b)
 		}
-		scribble(whole)
+		sample.Scribble(whole)
 		if !bytes.Equal(two, want) {
 			t.Errorf("%v: what was given reaches the answer", b)
 		}
@@ -507,14 +485,14 @@ func TestSealIsNewMemory(t *testing.T) {
 func TestNothingIsKept(t *testing.T) {
 	b := []byte("123456789")
 	sum, sealed := Sum(b), Seal(b)
-	scribble(b)
+	sample.Scribble(b)
 	if got, want := Sum(b), told(b); got != want || got == sum {
 		t.Errorf("%#x, want %#x", got, want)
 	}
 	if got, want := Sum([]byte("123456789")), uint32(0xe3069283); got != want {
 		t.Errorf("%#x, want %#x", got, want)
 	}
-	scribble(sealed)
+	sample.Scribble(sealed)
 	if Good(sealed) {
 		t.Error(sealed)
 	}

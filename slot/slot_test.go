@@ -9,52 +9,12 @@ import (
 	"testing"
 
 	"moneyer/api"
+	"moneyer/sample"
 )
-
-// some gives n bytes that look like nothing, always the same.
-func some(n int) []byte {
-	b := make([]byte, n)
-	x := uint32(n) + 1
-	for i := range b {
-		x = x*1664525 + 1013904223
-		b[i] = byte(x >> 24)
-	}
-	return b
-}
-
-// roomy gives b with spare room behind it, all of it 0xee, and the whole.
-func roomy(b ...byte) ([]byte, []byte) {
-	whole := slices.Concat(b, bytes.Repeat([]byte{0xee}, 64))
-	return whole[:len(b)], whole
-}
-
-// scribble writes over all of b, its spare room too.
-func scribble(b []byte) {
-	b = b[:cap(b)]
-	for i := range b {
-		b[i] = 0x55
-	}
-}
-
-func record(b ...byte) api.Cell {
-	return api.Cell{Kind: 1, Data: b}
-}
-
-func counter(lo, hi, val int) api.Cell {
-	return api.Cell{Kind: 2, Lo: lo, Hi: hi, Val: val}
-}
-
-func live(k string, c api.Cell) api.Item {
-	return api.Item{State: 1, Key: k, Cell: c}
-}
-
-func ghost(k string, c api.Cell) api.Item {
-	return api.Item{State: 2, Key: k, Cell: c}
-}
 
 // largest gives the item of the most bytes.
 func largest() api.Item {
-	return live("0123456789abcdef", record(bytes.Repeat([]byte{255}, 32)...))
+	return sample.Live("0123456789abcdef", sample.Record(bytes.Repeat([]byte{255}, 32)...))
 }
 
 // otherStates gives states that no item has.
@@ -87,13 +47,13 @@ func wrongKeys() []string {
 // cells gives cells that may be.
 func cells() []api.Cell {
 	l := []api.Cell{
-		{Kind: 1}, record([]byte{}...), record([]byte("ab")...),
-		counter(0, 0, 0), counter(0, 5, 3), counter(0, 5, 0), counter(0, 5, 5), counter(-7, -3, -5), counter(-1, 258, 0),
-		counter(math.MinInt, math.MaxInt, 0), counter(math.MinInt, math.MaxInt, -2),
-		counter(math.MinInt, math.MinInt, math.MinInt), counter(math.MaxInt, math.MaxInt, math.MaxInt),
+		{Kind: 1}, sample.Record([]byte{}...), sample.Record([]byte("ab")...),
+		sample.Counter(0, 0, 0), sample.Counter(0, 5, 3), sample.Counter(0, 5, 0), sample.Counter(0, 5, 5), sample.Counter(-7, -3, -5), sample.Counter(-1, 258, 0),
+		sample.Counter(math.MinInt, math.MaxInt, 0), sample.Counter(math.MinInt, math.MaxInt, -2),
+		sample.Counter(math.MinInt, math.MinInt, math.MinInt), sample.Counter(math.MaxInt, math.MaxInt, math.MaxInt),
 	}
 	for n := range 33 {
-		l = append(l, record(some(n)...), record(make([]byte, n)...), record(bytes.Repeat([]byte{255}, n)...))
+		l = append(l, sample.Record(sample.Some(n)...), sample.Record(make([]byte, n)...), sample.Record(bytes.Repeat([]byte{255}, n)...))
 	}
 	return l
 }
@@ -101,12 +61,12 @@ func cells() []api.Cell {
 // wrongCells gives cells that may not be.
 func wrongCells() []api.Cell {
 	l := []api.Cell{
-		{}, {Data: some(2)}, {Hi: 5, Val: 3}, {Kind: 3}, {Kind: -1}, {Kind: 257}, {Kind: 258, Hi: 5},
-		record(some(33)...), record(some(64)...), record(some(256)...), record(some(288)...),
-		{Kind: 1, Lo: 1}, {Kind: 1, Hi: 1}, {Kind: 1, Val: 1}, {Kind: 1, Data: some(2), Lo: -1}, {Kind: 1, Lo: 3, Hi: 3, Val: 3},
-		counter(0, 5, 6), counter(0, 5, -1), counter(5, 0, 3), counter(1, 0, 0), counter(0, 0, 1),
-		counter(math.MaxInt, math.MinInt, 0), counter(math.MinInt, math.MinInt, math.MaxInt),
-		{Kind: 2, Data: some(1), Hi: 5, Val: 3}, {Kind: 2, Data: some(32)},
+		{}, {Data: sample.Some(2)}, {Hi: 5, Val: 3}, {Kind: 3}, {Kind: -1}, {Kind: 257}, {Kind: 258, Hi: 5},
+		sample.Record(sample.Some(33)...), sample.Record(sample.Some(64)...), sample.Record(sample.Some(256)...), sample.Record(sample.Some(288)...),
+		{Kind: 1, Lo: 1}, {Kind: 1, Hi: 1}, {Kind: 1, Val: 1}, {Kind: 1, Data: sample.Some(2), Lo: -1}, {Kind: 1, Lo: 3, Hi: 3, Val: 3},
+		sample.Counter(0, 5, 6), sample.Counter(0, 5, -1), sample.Counter(5, 0, 3), sample.Counter(1, 0, 0), sample.Counter(0, 0, 1),
+		sample.Counter(math.MaxInt, math.MinInt, 0), sample.Counter(math.MinInt, math.MinInt, math.MaxInt),
+		{Kind: 2, Data: sample.Some(1), Hi: 5, Val: 3}, {Kind: 2, Data: sample.Some(32)},
 	}
 	return l
 }
@@ -116,7 +76,7 @@ func things() []api.Item {
 	var l []api.Item
 	for _, c := range cells() {
 		for _, k := range keys() {
-			l = append(l, live(k, c), ghost(k, c))
+			l = append(l, sample.Live(k, c), sample.Ghost(k, c))
 		}
 	}
 	return l
@@ -125,11 +85,11 @@ func things() []api.Item {
 // few gives some of those that things gives, of each kind and size.
 func few() []api.Item {
 	l := []api.Item{
-		live("a", record()), ghost("a", record()), live("a", record('a', 'b')), ghost("ab", record(0)), live("ab", record(0, 0)),
-		live("b", record(1, 0)), live("k1", record(some(31)...)), ghost("k1", record(some(32)...)),
-		live("a", counter(0, 0, 0)), ghost("a", counter(0, 0, 0)), live("~", counter(-1, 258, 7)),
-		ghost("0123456789abcdef", counter(math.MinInt, math.MaxInt, 0)), live("!", counter(math.MaxInt, math.MaxInt, math.MaxInt)),
-		live("0123456789abcde", counter(0, 5, 3)), ghost("~~~~~~~~~~~~~~~~", record(make([]byte, 32)...)),
+		sample.Live("a", sample.Record()), sample.Ghost("a", sample.Record()), sample.Live("a", sample.Record('a', 'b')), sample.Ghost("ab", sample.Record(0)), sample.Live("ab", sample.Record(0, 0)),
+		sample.Live("b", sample.Record(1, 0)), sample.Live("k1", sample.Record(sample.Some(31)...)), sample.Ghost("k1", sample.Record(sample.Some(32)...)),
+		sample.Live("a", sample.Counter(0, 0, 0)), sample.Ghost("a", sample.Counter(0, 0, 0)), sample.Live("~", sample.Counter(-1, 258, 7)),
+		sample.Ghost("0123456789abcdef", sample.Counter(math.MinInt, math.MaxInt, 0)), sample.Live("!", sample.Counter(math.MaxInt, math.MaxInt, math.MaxInt)),
+		sample.Live("0123456789abcde", sample.Counter(0, 5, 3)), sample.Ghost("~~~~~~~~~~~~~~~~", sample.Record(make([]byte, 32)...)),
 	}
 	return append(l, largest())
 }
@@ -147,12 +107,12 @@ func wrongs() []api.Item {
 			}
 		}
 		for _, k := range wrongKeys() {
-			l = append(l, api.Item{Key: k + "x"}, live(k, c), ghost(k, c))
+			l = append(l, api.Item{Key: k + "x"}, sample.Live(k, c), sample.Ghost(k, c))
 		}
 	}
 	for _, c := range wrongCells() {
 		for _, k := range keys() {
-			l = append(l, live(k, c), ghost(k, c))
+			l = append(l, sample.Live(k, c), sample.Ghost(k, c))
 		}
 	}
 	for _, s := range otherStates() {
@@ -217,10 +177,10 @@ func told(b [64]byte) (api.Item, api.Errno) {
 		if rest[1] > 32 {
 			return api.Item{}, api.ErrForm
 		}
-		x.Cell = record(rest[2:size]...)
+		x.Cell = sample.Record(rest[2:size]...)
 	case 2:
 		at := func(i int) int { return int(binary.BigEndian.Uint64(rest[i:])) }
-		x.Cell = counter(at(1), at(9), at(17))
+		x.Cell = sample.Counter(at(1), at(9), at(17))
 		if x.Cell.Lo > x.Cell.Val || x.Cell.Val > x.Cell.Hi {
 			return api.Item{}, api.ErrForm
 		}
@@ -262,40 +222,40 @@ func TestCheck(t *testing.T) {
 		{api.Item{Cell: api.Cell{Data: []byte{}}}, api.OK},
 		{api.Item{Key: "a"}, api.ErrArg},
 		{api.Item{Key: " "}, api.ErrArg},
-		{api.Item{Cell: record()}, api.ErrArg},
-		{api.Item{Cell: counter(0, 0, 0)}, api.ErrArg},
-		{api.Item{Cell: api.Cell{Data: some(1)}}, api.ErrArg},
+		{api.Item{Cell: sample.Record()}, api.ErrArg},
+		{api.Item{Cell: sample.Counter(0, 0, 0)}, api.ErrArg},
+		{api.Item{Cell: api.Cell{Data: sample.Some(1)}}, api.ErrArg},
 		{api.Item{Cell: api.Cell{Lo: 1}}, api.ErrArg},
 		{api.Item{Cell: api.Cell{Hi: -1}}, api.ErrArg},
 		{api.Item{Cell: api.Cell{Val: 1}}, api.ErrArg},
-		{api.Item{Key: "a", Cell: record()}, api.ErrArg},
-		{api.Item{Key: "a", Cell: counter(0, 5, 3)}, api.ErrArg},
-		{live("a", record()), api.OK},
-		{ghost("a", record()), api.OK},
-		{live("a", counter(0, 5, 3)), api.OK},
-		{ghost("a", counter(0, 5, 3)), api.OK},
+		{api.Item{Key: "a", Cell: sample.Record()}, api.ErrArg},
+		{api.Item{Key: "a", Cell: sample.Counter(0, 5, 3)}, api.ErrArg},
+		{sample.Live("a", sample.Record()), api.OK},
+		{sample.Ghost("a", sample.Record()), api.OK},
+		{sample.Live("a", sample.Counter(0, 5, 3)), api.OK},
+		{sample.Ghost("a", sample.Counter(0, 5, 3)), api.OK},
 		{largest(), api.OK},
-		{ghost("0123456789abcdef", record(some(32)...)), api.OK},
+		{sample.Ghost("0123456789abcdef", sample.Record(sample.Some(32)...)), api.OK},
 		{api.Item{State: 1}, api.ErrArg},
 		{api.Item{State: 2}, api.ErrArg},
-		{live("", record()), api.ErrArg},
-		{ghost("", record()), api.ErrArg},
-		{live("0123456789abcdefg", record()), api.ErrArg},
-		{ghost("0123456789abcdefg", record()), api.ErrArg},
-		{live("a b", record()), api.ErrArg},
-		{ghost("a\x7f", counter(0, 5, 3)), api.ErrArg},
-		{live("a", api.Cell{}), api.ErrArg},
-		{ghost("a", api.Cell{}), api.ErrArg},
-		{live("a", record(some(33)...)), api.ErrArg},
-		{ghost("a", record(some(33)...)), api.ErrArg},
-		{live("a", counter(0, 5, 6)), api.ErrArg},
-		{ghost("a", counter(5, 0, 3)), api.ErrArg},
-		{live(" ", counter(5, 0, 3)), api.ErrArg},
-		{api.Item{State: 3, Key: "a", Cell: record()}, api.ErrArg},
-		{api.Item{State: -1, Key: "a", Cell: record()}, api.ErrArg},
+		{sample.Live("", sample.Record()), api.ErrArg},
+		{sample.Ghost("", sample.Record()), api.ErrArg},
+		{sample.Live("0123456789abcdefg", sample.Record()), api.ErrArg},
+		{sample.Ghost("0123456789abcdefg", sample.Record()), api.ErrArg},
+		{sample.Live("a b", sample.Record()), api.ErrArg},
+		{sample.Ghost("a\x7f", sample.Counter(0, 5, 3)), api.ErrArg},
+		{sample.Live("a", api.Cell{}), api.ErrArg},
+		{sample.Ghost("a", api.Cell{}), api.ErrArg},
+		{sample.Live("a", sample.Record(sample.Some(33)...)), api.ErrArg},
+		{sample.Ghost("a", sample.Record(sample.Some(33)...)), api.ErrArg},
+		{sample.Live("a", sample.Counter(0, 5, 6)), api.ErrArg},
+		{sample.Ghost("a", sample.Counter(5, 0, 3)), api.ErrArg},
+		{sample.Live(" ", sample.Counter(5, 0, 3)), api.ErrArg},
+		{api.Item{State: 3, Key: "a", Cell: sample.Record()}, api.ErrArg},
+		{api.Item{State: -1, Key: "a", Cell: sample.Record()}, api.ErrArg},
 		{api.Item{State: 256}, api.ErrArg},
-		{api.Item{State: 257, Key: "a", Cell: record()}, api.ErrArg},
-		{api.Item{State: 258, Key: "a", Cell: record()}, api.ErrArg},
+		{api.Item{State: 257, Key: "a", Cell: sample.Record()}, api.ErrArg},
+		{api.Item{State: 258, Key: "a", Cell: sample.Record()}, api.ErrArg},
 		{api.Item{State: 3}, api.ErrArg},
 		{api.Item{State: -1}, api.ErrArg},
 	} {
@@ -325,7 +285,7 @@ func TestCheckOfEachLength(t *testing.T) {
 			want = api.OK
 		}
 		k := strings.Repeat("k", n)
-		for _, x := range []api.Item{live(k, record()), ghost(k, counter(0, 5, 3))} {
+		for _, x := range []api.Item{sample.Live(k, sample.Record()), sample.Ghost(k, sample.Counter(0, 5, 3))} {
 			if got := Check(x); got != want {
 				t.Errorf("a key of %d bytes: %d, want %d", n, got, want)
 			}
@@ -334,7 +294,7 @@ func TestCheckOfEachLength(t *testing.T) {
 		if n <= 32 {
 			want = api.OK
 		}
-		for _, x := range []api.Item{live("a", record(some(n)...)), ghost("0123456789abcdef", record(some(n)...))} {
+		for _, x := range []api.Item{sample.Live("a", sample.Record(sample.Some(n)...)), sample.Ghost("0123456789abcdef", sample.Record(sample.Some(n)...))} {
 			if got := Check(x); got != want {
 				t.Errorf("a record of %d bytes: %d, want %d", n, got, want)
 			}
@@ -352,7 +312,7 @@ func TestCheckOfEachByteOfAKey(t *testing.T) {
 		one := string([]byte{byte(b)})
 		for _, k := range []string{one, "a" + one, one + "a", "0123456" + one + "89abcdef"} {
 			for _, s := range []int{1, 2} {
-				if got := Check(api.Item{State: s, Key: k, Cell: record()}); got != want {
+				if got := Check(api.Item{State: s, Key: k, Cell: sample.Record()}); got != want {
 					t.Errorf("state %d, key %q: %d, want %d", s, k, got, want)
 				}
 			}
@@ -362,7 +322,7 @@ func TestCheckOfEachByteOfAKey(t *testing.T) {
 
 func TestCheckOfOtherStates(t *testing.T) {
 	for _, s := range otherStates() {
-		for _, x := range append(few(), api.Item{}, api.Item{Key: "a"}, api.Item{Cell: record()}) {
+		for _, x := range append(few(), api.Item{}, api.Item{Key: "a"}, api.Item{Cell: sample.Record()}) {
 			x.State = s
 			if got := Check(x); got != api.ErrArg {
 				t.Errorf("Check(%v) = %d", x, got)
@@ -378,29 +338,29 @@ func TestSame(t *testing.T) {
 	}{
 		{api.Item{}, api.Item{}, true},
 		{api.Item{}, api.Item{Cell: api.Cell{Data: []byte{}}}, true},
-		{live("a", record()), live("a", record()), true},
-		{live("a", api.Cell{Kind: 1}), live("a", record([]byte{}...)), true},
-		{live("a", record(1, 2)), live("a", record(1, 2)), true},
-		{live("a", counter(0, 5, 3)), live("a", counter(0, 5, 3)), true},
-		{live("a", record()), ghost("a", record()), false},
-		{live("a", record()), api.Item{Key: "a", Cell: record()}, false},
-		{live("a", record()), live("b", record()), false},
-		{live("a", record()), live("A", record()), false},
-		{live("a", record()), live("aa", record()), false},
-		{live("a", record()), live("", record()), false},
-		{live("a", record()), live("a\x00", record()), false},
-		{live("ab", record()), live("ba", record()), false},
-		{live("a", record(1, 2)), live("a", record(1, 3)), false},
-		{live("a", record(1, 2)), live("a", record(1)), false},
-		{live("a", record(0)), live("a", record()), false},
-		{live("a", record()), live("a", counter(0, 0, 0)), false},
-		{live("a", counter(0, 5, 3)), live("a", counter(0, 5, 4)), false},
-		{live("a", counter(0, 5, 3)), live("a", counter(0, 6, 3)), false},
-		{live("a", counter(0, 5, 3)), live("a", counter(-1, 5, 3)), false},
+		{sample.Live("a", sample.Record()), sample.Live("a", sample.Record()), true},
+		{sample.Live("a", api.Cell{Kind: 1}), sample.Live("a", sample.Record([]byte{}...)), true},
+		{sample.Live("a", sample.Record(1, 2)), sample.Live("a", sample.Record(1, 2)), true},
+		{sample.Live("a", sample.Counter(0, 5, 3)), sample.Live("a", sample.Counter(0, 5, 3)), true},
+		{sample.Live("a", sample.Record()), sample.Ghost("a", sample.Record()), false},
+		{sample.Live("a", sample.Record()), api.Item{Key: "a", Cell: sample.Record()}, false},
+		{sample.Live("a", sample.Record()), sample.Live("b", sample.Record()), false},
+		{sample.Live("a", sample.Record()), sample.Live("A", sample.Record()), false},
+		{sample.Live("a", sample.Record()), sample.Live("aa", sample.Record()), false},
+		{sample.Live("a", sample.Record()), sample.Live("", sample.Record()), false},
+		{sample.Live("a", sample.Record()), sample.Live("a\x00", sample.Record()), false},
+		{sample.Live("ab", sample.Record()), sample.Live("ba", sample.Record()), false},
+		{sample.Live("a", sample.Record(1, 2)), sample.Live("a", sample.Record(1, 3)), false},
+		{sample.Live("a", sample.Record(1, 2)), sample.Live("a", sample.Record(1)), false},
+		{sample.Live("a", sample.Record(0)), sample.Live("a", sample.Record()), false},
+		{sample.Live("a", sample.Record()), sample.Live("a", sample.Counter(0, 0, 0)), false},
+		{sample.Live("a", sample.Counter(0, 5, 3)), sample.Live("a", sample.Counter(0, 5, 4)), false},
+		{sample.Live("a", sample.Counter(0, 5, 3)), sample.Live("a", sample.Counter(0, 6, 3)), false},
+		{sample.Live("a", sample.Counter(0, 5, 3)), sample.Live("a", sample.Counter(-1, 5, 3)), false},
 		{api.Item{State: 257}, api.Item{State: 1}, false},
 		{api.Item{State: 257, Key: " "}, api.Item{State: 257, Key: " "}, true},
-		{api.Item{State: -1, Cell: record(some(40)...)}, api.Item{State: -1, Cell: record(some(40)...)}, true},
-		{api.Item{State: -1, Cell: record(some(40)...)}, api.Item{State: -2, Cell: record(some(40)...)}, false},
+		{api.Item{State: -1, Cell: sample.Record(sample.Some(40)...)}, api.Item{State: -1, Cell: sample.Record(sample.Some(40)...)}, true},
+		{api.Item{State: -1, Cell: sample.Record(sample.Some(40)...)}, api.Item{State: -2, Cell: sample.Record(sample.Some(40)...)}, false},
 	} {
 		if got := Same(x.a, x.b); got != x.want {
 			t.Errorf("Same(%v, %v) = %v", x.a, x.b, got)
@@ -460,16 +420,16 @@ func TestSameOfAllPairs(t *testing.T) {
 
 // Room behind a list is of no matter.
 func TestSpareRoomIsLeftOut(t *testing.T) {
-	one, _ := roomy(1, 2)
-	two, whole := roomy(1, 2)
+	one, _ := sample.Roomy(1, 2)
+	two, whole := sample.Roomy(1, 2)
 	whole[2] = 0
-	a, b := live("a", record(one...)), live("a", record(two...))
+	a, b := sample.Live("a", sample.Record(one...)), sample.Live("a", sample.Record(two...))
 	if !Same(a, b) || Put(a) != Put(b) || Put(a) != packed([]byte{1, 1, 'a', 1, 2, 1, 2}) {
 		t.Errorf("%v and %v", a, b)
 	}
-	none, _ := roomy()
-	full, _ := roomy(some(32)...)
-	for _, x := range []api.Item{{Cell: api.Cell{Data: none}}, live("a", record(full...)), ghost("a", api.Cell{Kind: 2, Data: none})} {
+	none, _ := sample.Roomy()
+	full, _ := sample.Roomy(sample.Some(32)...)
+	for _, x := range []api.Item{{Cell: api.Cell{Data: none}}, sample.Live("a", sample.Record(full...)), sample.Ghost("a", api.Cell{Kind: 2, Data: none})} {
 		if got := Check(x); got != api.OK {
 			t.Errorf("Check(%v) = %d", x, got)
 		}
@@ -485,16 +445,16 @@ func TestPut(t *testing.T) {
 	}{
 		{api.Item{}, [64]byte{}},
 		{api.Item{Cell: api.Cell{Data: []byte{}}}, [64]byte{}},
-		{live("a", record()), [64]byte{1, 1, 'a', 1, 0}},
-		{ghost("a", record()), [64]byte{2, 1, 'a', 1, 0}},
-		{live("a", api.Cell{Kind: 1, Data: []byte{}}), [64]byte{1, 1, 'a', 1, 0}},
-		{live("ab", record('c', 'd')), [64]byte{1, 2, 'a', 'b', 1, 2, 'c', 'd'}},
-		{ghost("!~!", record(0)), [64]byte{2, 3, '!', '~', '!', 1, 1, 0}},
-		{live("a", record(0, 0, 1)), [64]byte{1, 1, 'a', 1, 3, 0, 0, 1}},
-		{live("a", counter(0, 0, 0)), [64]byte{1, 1, 'a', 2}},
-		{live("a", counter(0, 5, 3)), [64]byte{1, 1, 'a', 2, 19: 5, 27: 3}},
-		{ghost("ab", counter(-1, 258, 0)), [64]byte{2, 2, 'a', 'b', 2, 255, 255, 255, 255, 255, 255, 255, 255, 0, 0, 0, 0, 0, 0, 1, 2}},
-		{live("0123456789abcdef", counter(math.MinInt, math.MaxInt, -2)), packed([]byte("\x01\x100123456789abcdef\x02\x80\x00\x00\x00\x00\x00\x00\x00\x7f\xff\xff\xff\xff\xff\xff\xff\xff\xff\xff\xff\xff\xff\xff\xfe"))},
+		{sample.Live("a", sample.Record()), [64]byte{1, 1, 'a', 1, 0}},
+		{sample.Ghost("a", sample.Record()), [64]byte{2, 1, 'a', 1, 0}},
+		{sample.Live("a", api.Cell{Kind: 1, Data: []byte{}}), [64]byte{1, 1, 'a', 1, 0}},
+		{sample.Live("ab", sample.Record('c', 'd')), [64]byte{1, 2, 'a', 'b', 1, 2, 'c', 'd'}},
+		{sample.Ghost("!~!", sample.Record(0)), [64]byte{2, 3, '!', '~', '!', 1, 1, 0}},
+		{sample.Live("a", sample.Record(0, 0, 1)), [64]byte{1, 1, 'a', 1, 3, 0, 0, 1}},
+		{sample.Live("a", sample.Counter(0, 0, 0)), [64]byte{1, 1, 'a', 2}},
+		{sample.Live("a", sample.Counter(0, 5, 3)), [64]byte{1, 1, 'a', 2, 19: 5, 27: 3}},
+		{sample.Ghost("ab", sample.Counter(-1, 258, 0)), [64]byte{2, 2, 'a', 'b', 2, 255, 255, 255, 255, 255, 255, 255, 255, 0, 0, 0, 0, 0, 0, 1, 2}},
+		{sample.Live("0123456789abcdef", sample.Counter(math.MinInt, math.MaxInt, -2)), packed([]byte("\x01\x100123456789abcdef\x02\x80\x00\x00\x00\x00\x00\x00\x00\x7f\xff\xff\xff\xff\xff\xff\xff\xff\xff\xff\xff\xff\xff\xff\xfe"))},
 		{largest(), packed([]byte("\x01\x100123456789abcdef\x01\x20"), bytes.Repeat([]byte{255}, 32))},
 	} {
 		if got := Put(x.x); got != x.want {
@@ -534,15 +494,15 @@ func TestGet(t *testing.T) {
 		want api.Item
 	}{
 		{[64]byte{}, api.Item{}},
-		{[64]byte{1, 1, 'a', 1, 0}, live("a", record())},
-		{[64]byte{2, 1, 'a', 1, 0}, ghost("a", record())},
-		{[64]byte{1, 2, 'a', 'b', 1, 2, 'c', 'd'}, live("ab", record('c', 'd'))},
-		{[64]byte{2, 3, '!', '~', '!', 1, 1, 0}, ghost("!~!", record(0))},
-		{[64]byte{1, 1, 'a', 1, 5}, live("a", record(0, 0, 0, 0, 0))},
-		{[64]byte{1, 1, 'a', 1, 32, 36: 9}, live("a", record(append(make([]byte, 31), 9)...))},
-		{[64]byte{1, 1, 'a', 2}, live("a", counter(0, 0, 0))},
-		{[64]byte{2, 1, 'a', 2, 19: 5, 27: 3}, ghost("a", counter(0, 5, 3))},
-		{packed([]byte("\x01\x100123456789abcdef\x02\x80\x00\x00\x00\x00\x00\x00\x00\x7f\xff\xff\xff\xff\xff\xff\xff\xff\xff\xff\xff\xff\xff\xff\xfe")), live("0123456789abcdef", counter(math.MinInt, math.MaxInt, -2))},
+		{[64]byte{1, 1, 'a', 1, 0}, sample.Live("a", sample.Record())},
+		{[64]byte{2, 1, 'a', 1, 0}, sample.Ghost("a", sample.Record())},
+		{[64]byte{1, 2, 'a', 'b', 1, 2, 'c', 'd'}, sample.Live("ab", sample.Record('c', 'd'))},
+		{[64]byte{2, 3, '!', '~', '!', 1, 1, 0}, sample.Ghost("!~!", sample.Record(0))},
+		{[64]byte{1, 1, 'a', 1, 5}, sample.Live("a", sample.Record(0, 0, 0, 0, 0))},
+		{[64]byte{1, 1, 'a', 1, 32, 36: 9}, sample.Live("a", sample.Record(append(make([]byte, 31), 9)...))},
+		{[64]byte{1, 1, 'a', 2}, sample.Live("a", sample.Counter(0, 0, 0))},
+		{[64]byte{2, 1, 'a', 2, 19: 5, 27: 3}, sample.Ghost("a", sample.Counter(0, 5, 3))},
+		{packed([]byte("\x01\x100123456789abcdef\x02\x80\x00\x00\x00\x00\x00\x00\x00\x7f\xff\xff\xff\xff\xff\xff\xff\xff\xff\xff\xff\xff\xff\xff\xfe")), sample.Live("0123456789abcdef", sample.Counter(math.MinInt, math.MaxInt, -2))},
 		{packed([]byte("\x01\x100123456789abcdef\x01\x20"), bytes.Repeat([]byte{255}, 32)), largest()},
 	} {
 		gets(t, x.b, x.want, api.OK)
@@ -646,14 +606,14 @@ func TestGetOfOtherStates(t *testing.T) {
 // Each length of a key, all that it claims being there, or not.
 func TestGetOfEachLengthOfAKey(t *testing.T) {
 	for n := range 256 {
-		for _, c := range []api.Cell{record(), record(9), counter(0, 5, 3)} {
+		for _, c := range []api.Cell{sample.Record(), sample.Record(9), sample.Counter(0, 5, 3)} {
 			k := strings.Repeat("k", n)
-			b := packed([]byte{1, byte(n)}, []byte(k), wrote(live("", c))[2:])
+			b := packed([]byte{1, byte(n)}, []byte(k), wrote(sample.Live("", c))[2:])
 			if n < 1 || n > 16 {
 				fails(t, b)
 				continue
 			}
-			gets(t, b, live(k, c), api.OK)
+			gets(t, b, sample.Live(k, c), api.OK)
 		}
 	}
 }
@@ -668,7 +628,7 @@ func TestGetOfEachByteOfAKey(t *testing.T) {
 				fails(t, b)
 				continue
 			}
-			gets(t, b, ghost(string(k), record()), api.OK)
+			gets(t, b, sample.Ghost(string(k), sample.Record()), api.OK)
 		}
 	}
 }
@@ -684,7 +644,7 @@ func TestGetOfEachCountOfARecord(t *testing.T) {
 				fails(t, packed(b[:len(k)+4], bytes.Repeat([]byte{7}, count)))
 				continue
 			}
-			gets(t, b, live(k, record(bytes.Repeat([]byte{7}, count)...)), api.OK)
+			gets(t, b, sample.Live(k, sample.Record(bytes.Repeat([]byte{7}, count)...)), api.OK)
 		}
 	}
 }
@@ -707,8 +667,8 @@ func TestGetOfCellsThatMayNotBe(t *testing.T) {
 			continue // one that no bytes tell
 		}
 		for _, k := range []string{"a", "0123456789abcdef"} {
-			fails(t, packed(wrote(live(k, c))))
-			fails(t, packed(wrote(ghost(k, c))))
+			fails(t, packed(wrote(sample.Live(k, c))))
+			fails(t, packed(wrote(sample.Ghost(k, c))))
 		}
 	}
 }
@@ -716,7 +676,7 @@ func TestGetOfCellsThatMayNotBe(t *testing.T) {
 // Of bytes that look like nothing, but for those that make most of it, too.
 func TestGetOfAnyBytes(t *testing.T) {
 	for n := range 20000 {
-		b := [64]byte(some(n + 64)[n:])
+		b := [64]byte(sample.Some(n + 64)[n:])
 		if n%2 == 0 {
 			b[0], b[1] = b[0]%4, b[1]%18
 			k := b[2 : 2+min(int(b[1]), 16)]
@@ -754,8 +714,8 @@ func TestPutOfGet(t *testing.T) {
 // What is handed in stays as it was, its spare room included.
 func TestCallsLeaveWhatTheyWereHanded(t *testing.T) {
 	for _, n := range []int{0, 2, 32, 33} {
-		data, whole := roomy(some(n)...)
-		other, behind := roomy(some(n)...)
+		data, whole := sample.Roomy(sample.Some(n)...)
+		other, behind := sample.Roomy(sample.Some(n)...)
 		was := bytes.Clone(whole)
 		for s := range 4 {
 			for _, k := range []string{"", "a", "0123456789abcdef", "a b"} {
@@ -781,7 +741,7 @@ func TestGetLeavesWhatItWasHanded(t *testing.T) {
 		was := b
 		one, _ := Get(b)
 		two, _ := Get(b)
-		scribble(one.Cell.Data)
+		sample.Scribble(one.Cell.Data)
 		if b != was {
 			t.Errorf("Get of %v gives out what it was handed", x)
 		}
@@ -794,24 +754,24 @@ func TestGetLeavesWhatItWasHanded(t *testing.T) {
 
 // What is answered stays as it is, whatever becomes of what was handed in.
 func TestPutKeepsNothing(t *testing.T) {
-	data, whole := roomy(5, 6, 7)
-	x := live("a", record(data...))
+	data, whole := sample.Roomy(5, 6, 7)
+	x := sample.Live("a", sample.Record(data...))
 	b := Put(x)
-	scribble(whole)
+	sample.Scribble(whole)
 	if b != [64]byte{1, 1, 'a', 1, 3, 5, 6, 7} {
 		t.Error(b)
 	}
 	if c := Put(x); c != [64]byte{1, 1, 'a', 1, 3, 0x55, 0x55, 0x55} {
 		t.Error(c)
 	}
-	if d := Put(live("a", record())); d != [64]byte{1, 1, 'a', 1, 0} {
+	if d := Put(sample.Live("a", sample.Record())); d != [64]byte{1, 1, 'a', 1, 0} {
 		t.Error(d)
 	}
 }
 
 // Nil and empty Data are alike in each call.
 func TestNilAndEmptyDataAreAlike(t *testing.T) {
-	for _, x := range append(few(), api.Item{}, api.Item{Key: "a"}, api.Item{State: 1}, api.Item{State: 3}, live(" ", record()), live("a", api.Cell{Kind: 1, Lo: 1}), live("a", counter(5, 0, 3))) {
+	for _, x := range append(few(), api.Item{}, api.Item{Key: "a"}, api.Item{State: 1}, api.Item{State: 3}, sample.Live(" ", sample.Record()), sample.Live("a", api.Cell{Kind: 1, Lo: 1}), sample.Live("a", sample.Counter(5, 0, 3))) {
 		x.Cell.Data = nil
 		y := x
 		y.Cell.Data = []byte{}
