@@ -4,7 +4,9 @@ package sample
 
 import (
 	"bytes"
+	"math"
 	"slices"
+	"strings"
 
 	"moneyer/api"
 )
@@ -52,4 +54,49 @@ func Live(k string, c api.Cell) api.Item {
 // Ghost gives the slot of a key that once had c.
 func Ghost(k string, c api.Cell) api.Item {
 	return api.Item{State: api.Ghost, Key: k, Cell: c}
+}
+
+// Keys gives keys of each length that may be.
+func Keys() []string {
+	l := []string{"a", "b", "!", "~", "k1", "ab", "ba", "0123456789abcdef", "!!!!!!!!!!!!!!!!", "~~~~~~~~~~~~~~~~"}
+	for n := 3; n < 16; n++ {
+		l = append(l, "0123456789abcdef"[16-n:])
+	}
+	return l
+}
+
+// WrongKeys gives texts that are no keys.
+func WrongKeys() []string {
+	l := []string{"", " ", "\x00", "\x1f", "\x7f", "\x80", "\xff", "a b", " a", "a ", "a\n", "a\x00", "\x00a", "é", "日本", "0123456789abcde ", " 123456789abcdef", "0123456789abcde\x00"}
+	for _, n := range []int{17, 18, 31, 32, 62, 63, 64, 255, 256, 257, 272, 1<<16 + 1} {
+		l = append(l, strings.Repeat("k", n))
+	}
+	return l
+}
+
+// Cells gives cells that may be.
+func Cells() []api.Cell {
+	l := []api.Cell{
+		{Kind: 1}, Record([]byte{}...), Record([]byte("ab")...),
+		Counter(0, 0, 0), Counter(0, 5, 3), Counter(0, 5, 0), Counter(0, 5, 5), Counter(-7, -3, -5), Counter(-1, 258, 0),
+		Counter(math.MinInt, math.MaxInt, 0), Counter(math.MinInt, math.MaxInt, -2),
+		Counter(math.MinInt, math.MinInt, math.MinInt), Counter(math.MaxInt, math.MaxInt, math.MaxInt),
+	}
+	for n := range 33 {
+		l = append(l, Record(Some(n)...), Record(make([]byte, n)...), Record(bytes.Repeat([]byte{255}, n)...))
+	}
+	return l
+}
+
+// WrongCells gives cells that may not be.
+func WrongCells() []api.Cell {
+	l := []api.Cell{
+		{}, {Data: Some(2)}, {Hi: 5, Val: 3}, {Kind: 3}, {Kind: -1}, {Kind: 257}, {Kind: 258, Hi: 5},
+		Record(Some(33)...), Record(Some(64)...), Record(Some(256)...), Record(Some(288)...),
+		{Kind: 1, Lo: 1}, {Kind: 1, Hi: 1}, {Kind: 1, Val: 1}, {Kind: 1, Data: Some(2), Lo: -1}, {Kind: 1, Lo: 3, Hi: 3, Val: 3},
+		Counter(0, 5, 6), Counter(0, 5, -1), Counter(5, 0, 3), Counter(1, 0, 0), Counter(0, 0, 1),
+		Counter(math.MaxInt, math.MinInt, 0), Counter(math.MinInt, math.MinInt, math.MaxInt),
+		{Kind: 2, Data: Some(1), Hi: 5, Val: 3}, {Kind: 2, Data: Some(32)},
+	}
+	return l
 }

@@ -26,56 +26,11 @@ func otherStates() []int {
 	}
 }
 
-// keys gives keys of each length that may be.
-func keys() []string {
-	l := []string{"a", "b", "!", "~", "k1", "ab", "ba", "0123456789abcdef", "!!!!!!!!!!!!!!!!", "~~~~~~~~~~~~~~~~"}
-	for n := 3; n < 16; n++ {
-		l = append(l, "0123456789abcdef"[16-n:])
-	}
-	return l
-}
-
-// wrongKeys gives texts that are no keys.
-func wrongKeys() []string {
-	l := []string{"", " ", "\x00", "\x1f", "\x7f", "\x80", "\xff", "a b", " a", "a ", "a\n", "a\x00", "\x00a", "é", "日本", "0123456789abcde ", " 123456789abcdef", "0123456789abcde\x00"}
-	for _, n := range []int{17, 18, 31, 32, 62, 63, 64, 255, 256, 257, 272, 1<<16 + 1} {
-		l = append(l, strings.Repeat("k", n))
-	}
-	return l
-}
-
-// cells gives cells that may be.
-func cells() []api.Cell {
-	l := []api.Cell{
-		{Kind: 1}, sample.Record([]byte{}...), sample.Record([]byte("ab")...),
-		sample.Counter(0, 0, 0), sample.Counter(0, 5, 3), sample.Counter(0, 5, 0), sample.Counter(0, 5, 5), sample.Counter(-7, -3, -5), sample.Counter(-1, 258, 0),
-		sample.Counter(math.MinInt, math.MaxInt, 0), sample.Counter(math.MinInt, math.MaxInt, -2),
-		sample.Counter(math.MinInt, math.MinInt, math.MinInt), sample.Counter(math.MaxInt, math.MaxInt, math.MaxInt),
-	}
-	for n := range 33 {
-		l = append(l, sample.Record(sample.Some(n)...), sample.Record(make([]byte, n)...), sample.Record(bytes.Repeat([]byte{255}, n)...))
-	}
-	return l
-}
-
-// wrongCells gives cells that may not be.
-func wrongCells() []api.Cell {
-	l := []api.Cell{
-		{}, {Data: sample.Some(2)}, {Hi: 5, Val: 3}, {Kind: 3}, {Kind: -1}, {Kind: 257}, {Kind: 258, Hi: 5},
-		sample.Record(sample.Some(33)...), sample.Record(sample.Some(64)...), sample.Record(sample.Some(256)...), sample.Record(sample.Some(288)...),
-		{Kind: 1, Lo: 1}, {Kind: 1, Hi: 1}, {Kind: 1, Val: 1}, {Kind: 1, Data: sample.Some(2), Lo: -1}, {Kind: 1, Lo: 3, Hi: 3, Val: 3},
-		sample.Counter(0, 5, 6), sample.Counter(0, 5, -1), sample.Counter(5, 0, 3), sample.Counter(1, 0, 0), sample.Counter(0, 0, 1),
-		sample.Counter(math.MaxInt, math.MinInt, 0), sample.Counter(math.MinInt, math.MinInt, math.MaxInt),
-		{Kind: 2, Data: sample.Some(1), Hi: 5, Val: 3}, {Kind: 2, Data: sample.Some(32)},
-	}
-	return l
-}
-
 // things gives items that may be, all but the zero one.
 func things() []api.Item {
 	var l []api.Item
-	for _, c := range cells() {
-		for _, k := range keys() {
+	for _, c := range sample.Cells() {
+		for _, k := range sample.Keys() {
 			l = append(l, sample.Live(k, c), sample.Ghost(k, c))
 		}
 	}
@@ -97,7 +52,7 @@ func few() []api.Item {
 // wrongs gives items that may not be.
 func wrongs() []api.Item {
 	var l []api.Item
-	for _, c := range append(cells(), wrongCells()...) {
+	for _, c := range append(sample.Cells(), sample.WrongCells()...) {
 		for _, k := range []string{"a", "0123456789abcdef", "", "a b", strings.Repeat("k", 17)} {
 			if k != "" || !like(api.Item{Cell: c}, api.Item{}) {
 				l = append(l, api.Item{State: 0, Key: k, Cell: c})
@@ -106,12 +61,12 @@ func wrongs() []api.Item {
 				l = append(l, api.Item{State: s, Key: k, Cell: c})
 			}
 		}
-		for _, k := range wrongKeys() {
+		for _, k := range sample.WrongKeys() {
 			l = append(l, api.Item{Key: k + "x"}, sample.Live(k, c), sample.Ghost(k, c))
 		}
 	}
-	for _, c := range wrongCells() {
-		for _, k := range keys() {
+	for _, c := range sample.WrongCells() {
+		for _, k := range sample.Keys() {
 			l = append(l, sample.Live(k, c), sample.Ghost(k, c))
 		}
 	}
@@ -636,7 +591,7 @@ func TestGetOfEachByteOfAKey(t *testing.T) {
 // Each count of a record's bytes, behind a key of each length: of those that
 // are too many some go past the end.
 func TestGetOfEachCountOfARecord(t *testing.T) {
-	for _, k := range keys() {
+	for _, k := range sample.Keys() {
 		for count := range 256 {
 			b := packed([]byte{1, byte(len(k))}, []byte(k), []byte{1, byte(count)}, bytes.Repeat([]byte{7}, min(count, 32)))
 			if count > 32 {
@@ -662,7 +617,7 @@ func TestGetOfCellsPastTheEnd(t *testing.T) {
 }
 
 func TestGetOfCellsThatMayNotBe(t *testing.T) {
-	for _, c := range wrongCells() {
+	for _, c := range sample.WrongCells() {
 		if c.Kind != 1 && c.Kind != 2 || len(c.Data) > 255 || c.Kind == 2 && len(c.Data) > 0 || c.Kind == 1 && len(c.Data) <= 32 {
 			continue // one that no bytes tell
 		}
