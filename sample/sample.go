@@ -1,5 +1,6 @@
 // Package sample gives the tests of all packages what they hand in: bytes, room
-// behind them, and things that a slot may have. No other package needs it.
+// behind them, things that a slot may have, states, and operations. No other
+// package needs it.
 package sample
 
 import (
